@@ -6,7 +6,6 @@ import (
 	"filigree/api"
 	"filigree/bits"
 	"filigree/cplx"
-	"filigree/poly"
 	"filigree/wire"
 )
 
@@ -17,17 +16,11 @@ const (
 	claimLen = 28 // bytes
 )
 
-func likeBall(a, b api.Ball) bool { return cplx.Same(a.C, b.C) && bits.Like(a.R, b.R) }
-
-func likeTrap(a, b api.Trap) bool {
-	return likeBall(a.Ball, b.Ball) && a.N == b.N && bits.Like(a.Slope, b.Slope)
+func likeClaim(a, b api.Claim) bool {
+	return wire.LikeBall(a.Ball, b.Ball) && a.Witness == b.Witness
 }
 
-func likeClaim(a, b api.Claim) bool { return likeBall(a.Ball, b.Ball) && a.Witness == b.Witness }
-
-func sameBase(a, b api.Cert) bool {
-	return poly.Same(a.Map.P, b.Map.P) && poly.Same(a.Map.Q, b.Map.Q) && slices.EqualFunc(a.Traps, b.Traps, likeTrap)
-}
+func sameBase(a, b api.Cert) bool { return wire.LikeJob(a.Map, b.Map, a.Traps, b.Traps) }
 
 func Same(a, b api.Cert) bool {
 	return sameBase(a, b) && slices.EqualFunc(a.Claims, b.Claims, likeClaim)
