@@ -154,27 +154,36 @@ func hull(l []api.Ratio) []api.Leaf {
 	return leaves
 }
 
+// told is an angle with its itinerary's text.
+type told struct {
+	angle api.Ratio
+	text  string
+}
+
 func Groups(by api.Ratio, d int, l ...api.Ratio) ([][]api.Ratio, api.Errno) {
 	if len(l) > api.MaxLamin {
 		return nil, api.ErrLong
 	}
-	for _, a := range l {
-		if _, e := itin.Of(by, a, d); e != api.OK {
+	all := make([]told, len(l))
+	for i, a := range l {
+		row, e := itin.Of(by, a, d)
+		if e != api.OK {
 			return nil, e
 		}
+		text, _ := itin.Text(row)
+		all[i] = told{a, text}
 	}
+	slices.SortFunc(all, func(t, u told) int { return at(t.angle).compare(at(u.angle)) })
 	var groups [][]api.Ratio
 	met := map[string]int{}
-	for _, a := range sorted(l) {
-		row, _ := itin.Of(by, a, d)
-		text, _ := itin.Text(row)
-		group, ok := met[text]
+	for _, t := range slices.Compact(all) {
+		group, ok := met[t.text]
 		if !ok {
 			group = len(groups)
-			met[text] = group
+			met[t.text] = group
 			groups = append(groups, nil)
 		}
-		groups[group] = append(groups[group], a)
+		groups[group] = append(groups[group], t.angle)
 	}
 	return groups, api.OK
 }
