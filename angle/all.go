@@ -8,13 +8,8 @@ import (
 // moebius is 0, if the square of a prime divides n, else 1 or -1, as n has an even or odd number of primes.
 func moebius(n int) int {
 	sign := 1
-primes:
-	for p := 2; n > 1; p++ {
-		if n%p != 0 {
-			continue primes
-		}
-		n /= p
-		if n%p == 0 {
+	for p := range primes(uint64(n)) {
+		if uint64(n)%(p*p) == 0 {
 			return 0
 		}
 		sign = -sign
