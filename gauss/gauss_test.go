@@ -241,6 +241,34 @@ func TestLong(t *testing.T) {
 	}
 }
 
+// TestP6_5Long asks Side where each difference and each product fits, and only the last difference does not.
+func TestP6_5Long(t *testing.T) {
+	wide := api.Gauss{Re: d(1, api.MaxExp), Im: d(1, -api.MaxExp)}
+	for _, b := range []api.Gauss{wide, Neg(wide), Conj(wide), Turn(wide)} {
+		for _, c := range []api.Gauss{g(1, 1), g(-1, 1), g(1, -1), g(-1, -1)} {
+			xv, e1 := dyad.Mul(b.Re, c.Im)
+			yu, e2 := dyad.Mul(b.Im, c.Re)
+			if e1 != api.OK || e2 != api.OK {
+				t.Error("a product that does not fit", b, c)
+			}
+			if _, e := dyad.Sub(xv, yu); e != api.ErrLong {
+				t.Error("a difference that fits", b, c)
+			}
+			for _, l := range [][2]api.Gauss{{b, c}, {c, b}} {
+				if s, e := Side(none, l[0], l[1]); s != 0 || e != api.ErrLong {
+					t.Error(l, s, e)
+				}
+				if x, e := Cross(l[0], l[1]); x != (api.Dyad{}) || e != api.ErrLong {
+					t.Error(l, x, e)
+				}
+			}
+		}
+	}
+	if s, e := Side(none, wide, one); s != -1 || e != api.OK {
+		t.Error("all fits", s, e)
+	}
+}
+
 func TestP6_7_P6_11Texts(t *testing.T) {
 	for _, a := range append(numbers(), far, ribbon) {
 		s, e := Show(a)
