@@ -388,6 +388,14 @@ func TestP22_5Texts(t *testing.T) {
 			t.Error(x, s, y, e)
 		}
 	}
+	for _, c := range []struct {
+		s           string
+		pre, period []uint8
+	}{{"(1)", nil, []uint8{1}}, {"(*)", nil, []uint8{api.Star}}, {"(63)", nil, []uint8{63}}, {"1 (1 0)", []uint8{1}, []uint8{1, 0}}, {"* 10 (0)", []uint8{api.Star, 10}, []uint8{0}}, {"(1 1)", nil, []uint8{1, 1}}, {"0 1 2 (63 * 5)", []uint8{0, 1, 2}, []uint8{63, api.Star, 5}}} {
+		if x, e := Read(c.s); !slices.Equal(x.Pre, c.pre) || !slices.Equal(x.Period, c.period) || e != api.OK {
+			t.Error(c, x, e)
+		}
+	}
 	if s := text(api.Itin{Pre: []uint8{0, api.Star}, Period: []uint8{63, 10}}); s != "0 * (63 10)" {
 		t.Error(s)
 	}

@@ -60,7 +60,11 @@ func symbols(s string) (l []uint8, ok bool) {
 			return nil, false
 		}
 	}
-	return l, put()
+	// put changes l: in one list with it, Go leaves open which l is told
+	if !put() {
+		return nil, false
+	}
+	return l, true
 }
 
 func Read(s string) (api.Itin, api.Errno) {
